@@ -4,6 +4,8 @@ import (
 	"math"
 	"slices"
 	"testing"
+
+	"loop.example/g00854/impl"
 )
 
 // mark is no card, suit, rank or length, so that a stray write or read of it shows.
@@ -66,6 +68,98 @@ func checkMemory(t *testing.T, what string, argument []int64, call func([]int64)
 	}
 	if third := call(argument); !slices.Equal(third, kept) {
 		t.Fatalf("%s: the result changed from %v to %v between calls", what, kept, third)
+	}
+}
+
+// guardedDeal is a deal whose hands, and whose list of hands, lie inside larger arrays.
+type guardedDeal struct {
+	hands []*guarded
+	whole [][]int64
+	start int
+	count int
+}
+
+func guardDeal(d impl.Deal) *guardedDeal {
+	const margin = 3
+	g := &guardedDeal{start: margin, count: len(d.Hands)}
+	strangers := slices.Repeat([][]int64{{mark}}, margin)
+	for _, hand := range slices.Concat(strangers, d.Hands, strangers) {
+		held := guard(hand)
+		g.hands = append(g.hands, held)
+		g.whole = append(g.whole, held.list())
+	}
+	return g
+}
+
+func (g *guardedDeal) deal() impl.Deal { return impl.Deal{Hands: g.whole[g.start : g.start+g.count]} }
+
+func (g *guardedDeal) mustBeUnchanged(t *testing.T, what string) {
+	t.Helper()
+	for place, hand := range g.hands {
+		hand.mustBeUnchanged(t, what)
+		now, before := g.whole[place], hand.list()
+		if len(now) != len(before) || cap(now) != cap(before) || &now[:1][0] != &before[:1][0] {
+			t.Fatalf("%s: the list of hands or the memory around it changed at %d", what, place-g.start)
+		}
+	}
+}
+
+func (g *guardedDeal) spoil() {
+	for place, hand := range g.hands {
+		for i := range hand.whole {
+			hand.whole[i] = mark - 2
+		}
+		g.whole[place] = nil
+	}
+}
+
+func copyLists(lists [][]int64) [][]int64 {
+	var copies [][]int64
+	for _, list := range lists {
+		copies = append(copies, slices.Clone(list))
+	}
+	return copies
+}
+
+func sameLists(a, b [][]int64) bool { return slices.EqualFunc(a, b, slices.Equal[[]int64]) }
+
+// overwriteLists also fills the spare capacity behind the last list.
+func overwriteLists(lists [][]int64) {
+	for _, list := range lists {
+		overwrite(list)
+	}
+	lists = lists[:cap(lists)]
+	for i := range lists {
+		lists[i] = []int64{mark - 1}
+	}
+}
+
+// checkDealMemory does for a function that makes lists of a deal what checkMemory does for one
+// that makes a list of a list, and checks that the lists of one result are independent.
+func checkDealMemory(t *testing.T, what string, argument impl.Deal, call func(impl.Deal) [][]int64) {
+	t.Helper()
+	g := guardDeal(argument)
+	first := call(g.deal())
+	g.mustBeUnchanged(t, what)
+	kept := copyLists(first)
+	for i := range kept {
+		alone := call(g.deal())
+		overwrite(alone[i])
+		if !sameLists(alone[:i], kept[:i]) || !sameLists(alone[i+1:], kept[i+1:]) {
+			t.Fatalf("%s: list %d of a result shares memory with another one", what, i)
+		}
+	}
+	overwriteLists(call(g.deal()))
+	g.mustBeUnchanged(t, what+", after the result was overwritten")
+	if !sameLists(first, kept) {
+		t.Fatalf("%s: two results share memory", what)
+	}
+	g.spoil()
+	if !sameLists(first, kept) {
+		t.Fatalf("%s: the result follows changes of the argument", what)
+	}
+	if last := call(argument); !sameLists(last, kept) {
+		t.Fatalf("%s: the result changed from %v to %v between calls", what, kept, last)
 	}
 }
 
