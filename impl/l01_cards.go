@@ -45,6 +45,16 @@ func (c playingCard) text() string {
 	return string([]byte{suitLetters[c.suit()], rankLetters[c.rank()]})
 }
 
+// isCardList reports whether a list of any length is a strictly increasing list of cards.
+func isCardList(list []int64) bool {
+	for i, card := range list {
+		if !playingCard(card).isCard() || i > 0 && card <= list[i-1] {
+			return false
+		}
+	}
+	return true
+}
+
 // CardOf returns the card with a suit and a rank. It returns -1 if suit is not in 0..3 or rank is
 // not in 0..12.
 func CardOf(suit int64, rank int64) int64 {
@@ -106,17 +116,7 @@ reading:
 }
 
 // IsHand reports whether cards is a hand.
-func IsHand(cards []int64) bool {
-	if len(cards) > MaxHand {
-		return false
-	}
-	for i, card := range cards {
-		if !playingCard(card).isCard() || i > 0 && card <= cards[i-1] {
-			return false
-		}
-	}
-	return true
-}
+func IsHand(cards []int64) bool { return len(cards) <= MaxHand && isCardList(cards) }
 
 // CardsOfSuit returns the cards of a hand that have a suit, in order. It returns nil if hand is
 // not a hand or suit is not in 0..3.
