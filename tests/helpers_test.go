@@ -1,6 +1,7 @@
 package tests
 
 import (
+	"iter"
 	"math"
 	"slices"
 	"testing"
@@ -211,4 +212,35 @@ func cardRange(first, last int64) []int64 {
 		list = append(list, card)
 	}
 	return list
+}
+
+// textsWithAByteChanged produces a text with each byte replaced by every byte, itself among them.
+func textsWithAByteChanged(text string) iter.Seq[string] {
+	return func(yield func(string) bool) {
+		for place := range len(text) {
+			for letter := range 256 {
+				if !yield(text[:place] + string([]byte{byte(letter)}) + text[place+1:]) {
+					return
+				}
+			}
+		}
+	}
+}
+
+// textsWithAByteMoreOrLess produces a text with a byte removed at each place, with every byte put
+// in there, and cut off there at either end.
+func textsWithAByteMoreOrLess(text string) iter.Seq[string] {
+	return func(yield func(string) bool) {
+		for place := range len(text) + 1 {
+			before, behind := text[:place], text[place:]
+			if !yield(before) || !yield(behind) || behind != "" && !yield(before+behind[1:]) {
+				return
+			}
+			for letter := range 256 {
+				if !yield(before + string([]byte{byte(letter)}) + behind) {
+					return
+				}
+			}
+		}
+	}
 }

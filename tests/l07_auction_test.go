@@ -777,27 +777,16 @@ func textsToChange() []string {
 
 func TestTextsWithAByteChanged(t *testing.T) {
 	for _, text := range textsToChange() {
-		for place := range len(text) {
-			for letter := range 256 {
-				changed := []byte(text)
-				changed[place] = byte(letter)
-				mustReadAuction(t, string(changed))
-			}
+		for changed := range textsWithAByteChanged(text) {
+			mustReadAuction(t, changed)
 		}
 	}
 }
 
 func TestTextsWithAByteMoreOrLess(t *testing.T) {
 	for _, text := range textsToChange() {
-		for place := range len(text) + 1 {
-			if place < len(text) {
-				mustReadAuction(t, text[:place]+text[place+1:])
-			}
-			mustReadAuction(t, text[:place])
-			mustReadAuction(t, text[place:])
-			for letter := range 256 {
-				mustReadAuction(t, text[:place]+string([]byte{byte(letter)})+text[place:])
-			}
+		for changed := range textsWithAByteMoreOrLess(text) {
+			mustReadAuction(t, changed)
 		}
 	}
 }
