@@ -1,6 +1,7 @@
 package tests
 
 import (
+	"iter"
 	"math"
 	"slices"
 	"strings"
@@ -185,13 +186,14 @@ func samePlay(p, q impl.Play) bool {
 
 func isZeroPlay(p impl.Play) bool { return p.Strain == 0 && p.Leader == 0 && len(p.Cards) == 0 }
 
-func playWith(p impl.Play, cards ...int64) impl.Play {
-	return impl.Play{Strain: p.Strain, Leader: p.Leader, Cards: slices.Concat(p.Cards, cards)}
+// playOf returns a play with the strain and the leader of another one.
+func playOf(p impl.Play, cards []int64) impl.Play {
+	return impl.Play{Strain: p.Strain, Leader: p.Leader, Cards: cards}
 }
 
-func playUpTo(p impl.Play, length int) impl.Play {
-	return impl.Play{Strain: p.Strain, Leader: p.Leader, Cards: p.Cards[:length]}
-}
+func playWith(p impl.Play, cards ...int64) impl.Play { return playOf(p, slices.Concat(p.Cards, cards)) }
+
+func playUpTo(p impl.Play, length int) impl.Play { return playOf(p, p.Cards[:length]) }
 
 // cardsNamed reads cards that are written with spaces between them, without the program.
 func cardsNamed(t *testing.T, text string) []int64 {
@@ -861,35 +863,47 @@ func TestCardsOutsideTheRangeInPlays(t *testing.T) {
 	}
 }
 
+// withCardsChanged produces a play with two cards that have changed places, with one that is
+// replaced, and without one, for each place.
+func withCardsChanged(p impl.Play) iter.Seq[impl.Play] {
+	return func(yield func(impl.Play) bool) {
+		last := len(p.Cards) - 1
+		for place, card := range p.Cards {
+			var changes []impl.Play
+			for _, other := range []int{min(place+1, last), min(place+4, last), last} {
+				changed := playWith(p)
+				changed.Cards[place], changed.Cards[other] = p.Cards[other], card
+				changes = append(changes, changed)
+			}
+			for _, other := range []int64{-1, 52, 51 - card, p.Cards[0], p.Cards[last]} {
+				changed := playWith(p)
+				changed.Cards[place] = other
+				changes = append(changes, changed)
+			}
+			changes = append(changes, playWith(playUpTo(p, place), p.Cards[place+1:]...))
+			for _, changed := range changes {
+				if !yield(changed) {
+					return
+				}
+			}
+		}
+	}
+}
+
 // Two cards of a play that change places, or one that is replaced, seldom leave a play.
 func TestPlaysWithCardsChanged(t *testing.T) {
 	still, broken := 0, 0
 	for number, desk := range finishedPlays() {
-		cards := desk.play.Cards
-		if number%7 != 0 || len(cards) == 0 {
+		if number%7 != 0 {
 			continue
 		}
-		check := func(p impl.Play) {
+		for p := range withCardsChanged(desk.play) {
 			mustStand(t, desk.deal, p)
 			if impl.IsPlay(desk.deal, p) {
 				still++
 			} else {
 				broken++
 			}
-		}
-		for place := range cards {
-			for _, other := range []int{place + 1, place + 4, len(cards) - 1} {
-				changed := playWith(desk.play)
-				other = min(other, len(cards)-1)
-				changed.Cards[place], changed.Cards[other] = cards[other], cards[place]
-				check(changed)
-			}
-			for _, card := range []int64{-1, 52, 51 - cards[place], cards[0], cards[len(cards)-1]} {
-				changed := playWith(desk.play)
-				changed.Cards[place] = card
-				check(changed)
-			}
-			check(playWith(playUpTo(desk.play, place), cards[place+1:]...))
 		}
 	}
 	if still < 100 || broken < 1000 {
@@ -980,12 +994,20 @@ func TestOrderOfErrorsOfAddCard(t *testing.T) {
 	}
 }
 
+// turnedPlay gives each hand, and the lead, to the seat that is a number of seats behind.
+func turnedPlay(d impl.Deal, p impl.Play, by int64) (impl.Deal, impl.Play) {
+	var to [4]int
+	for seat := range to {
+		to[seat] = (seat + int(by)) % 4
+	}
+	return tableOf(d).movedSeats(to).deal(), impl.Play{Strain: p.Strain, Leader: (p.Leader + by) % 4, Cards: p.Cards}
+}
+
 // mustTurn compares a play with that of the hands and the leader at the next seats.
 func mustTurn(t *testing.T, d impl.Deal, p impl.Play, by int64) {
 	t.Helper()
 	next := func(seat int64) int64 { return (seat + by) % 4 }
-	turned := tableOf(d).movedSeats([4]int{int(next(0)), int(next(1)), int(next(2)), int(next(3))}).deal()
-	q := impl.Play{Strain: p.Strain, Leader: next(p.Leader), Cards: p.Cards}
+	turned, q := turnedPlay(d, p, by)
 	if !impl.IsPlay(turned, q) {
 		t.Fatalf("%v is a play of %v, and %v none of %v", p, d, q, turned)
 	}
@@ -1045,9 +1067,7 @@ func playsForMemory() []deskPlay {
 
 func TestMemoryOfPlays(t *testing.T) {
 	for _, desk := range playsForMemory() {
-		with := func(cards []int64) impl.Play {
-			return impl.Play{Strain: desk.play.Strain, Leader: desk.play.Leader, Cards: cards}
-		}
+		with := func(cards []int64) impl.Play { return playOf(desk.play, cards) }
 		checkMemory(t, "TrickLeaders", desk.play.Cards, func(cards []int64) []int64 { return impl.TrickLeaders(with(cards)) })
 		checkMemory(t, "TricksOfSides", desk.play.Cards, func(cards []int64) []int64 { return impl.TricksOfSides(with(cards)) })
 		checkMemory(t, "LegalCards", desk.play.Cards, func(cards []int64) []int64 { return impl.LegalCards(desk.deal, with(cards)) })
